@@ -3,12 +3,12 @@ package sha_test
 import (
 	"bytes"
 	"crypto/sha256"
-	"encoding/hex"
 	"math/big"
 	"strings"
 	"testing"
 
 	"tappet/api"
+	"tappet/sample"
 	"tappet/sha"
 )
 
@@ -97,25 +97,14 @@ func slowSum(text []byte) (out api.Digest) {
 	return out
 }
 
-// textOf answers a text of that many bytes, alike in each run, and with no short period.
-func textOf(size int) []byte {
-	b := make([]byte, size)
-	state := uint32(size)*2654435761 + 1
-	for i := range b {
-		state = state*1664525 + 1013904223
-		b[i] = byte(state >> 24)
-	}
-	return b
-}
-
-// digestOf reads a digest as the chapter's table has it.
+// digestOf reads one as the chapter's table has it.
 func digestOf(t *testing.T, digits string) api.Digest {
 	t.Helper()
-	b, err := hex.DecodeString(strings.ReplaceAll(digits, " ", ""))
-	if err != nil || len(b) != 32 {
+	out, ok := sample.Digest(digits)
+	if !ok {
 		t.Fatalf("%q is no digest", digits)
 	}
-	return api.Digest(b)
+	return out
 }
 
 const ofNone = "e3b0c442 98fc1c14 9afbf4c8 996fb924 27ae41e4 649b934c a495991b 7852b855"
@@ -164,7 +153,7 @@ func TestSumOfNone(t *testing.T) {
 func TestSumByTheRule(t *testing.T) {
 	sizes := []int{0, 1, 2, 3, 4, 54, 55, 56, 57, 62, 63, 64, 65, 118, 119, 120, 121, 127, 128, 129, 183, 184, 191, 192, 193, 1000, 4096}
 	for _, size := range sizes {
-		for _, text := range [][]byte{textOf(size), make([]byte, size), bytes.Repeat([]byte{255}, size), bytes.Repeat([]byte{128}, size)} {
+		for _, text := range [][]byte{sample.Text(size), make([]byte, size), bytes.Repeat([]byte{255}, size), bytes.Repeat([]byte{128}, size)} {
 			if got, want := sha.Sum(text), slowSum(text); got != want {
 				t.Fatalf("%d bytes: %x, want %x", size, got, want)
 			}
@@ -175,13 +164,13 @@ func TestSumByTheRule(t *testing.T) {
 // P2.1: all lengths up to some blocks, and texts as long as a container may be, as another program has them.
 func TestSumOfAllLengths(t *testing.T) {
 	for size := range 700 {
-		text := textOf(size)
+		text := sample.Text(size)
 		if got := sha.Sum(text); got != sha256.Sum256(text) {
 			t.Fatalf("%d bytes: %x", size, got)
 		}
 	}
 	for _, size := range []int{1<<16 - 9, 1<<16 - 8, 1 << 16, api.MaxBytes - 1, api.MaxBytes, api.MaxBytes + 1} {
-		text := textOf(size)
+		text := sample.Text(size)
 		if got := sha.Sum(text); got != sha256.Sum256(text) {
 			t.Fatalf("%d bytes: %x", size, got)
 		}
@@ -190,7 +179,7 @@ func TestSumOfAllLengths(t *testing.T) {
 
 // P2.1: a text so long that eight times its bytes do not go into four bytes.
 func TestSumOfALongText(t *testing.T) {
-	piece := textOf(1 << 20)
+	piece := sample.Text(1 << 20)
 	parts := make([][]byte, 1<<9)
 	other := sha256.New()
 	for i := range parts {
@@ -204,7 +193,7 @@ func TestSumOfALongText(t *testing.T) {
 
 // P2.1: each bit of a text tells, wherever it stands.
 func TestEachBitTells(t *testing.T) {
-	text := textOf(130)
+	text := sample.Text(130)
 	seen := map[api.Digest]int{sha.Sum(text): -1}
 	for bit := range 8 * len(text) {
 		text[bit/8] ^= 1 << (bit % 8)
@@ -219,7 +208,7 @@ func TestEachBitTells(t *testing.T) {
 
 // P2.1: parts go one behind the other in the order in which they are handed in.
 func TestOrderOfParts(t *testing.T) {
-	a, b := textOf(70), textOf(71)
+	a, b := sample.Text(70), sample.Text(71)
 	if sha.Sum(a, b) != slowSum(append(bytes.Clone(a), b...)) || sha.Sum(b, a) != slowSum(append(bytes.Clone(b), a...)) {
 		t.Error("two parts are taken in another order")
 	}
@@ -231,7 +220,7 @@ func TestOrderOfParts(t *testing.T) {
 // P2.2: parted anywhere, into two and three, with nothing between them too.
 func TestPartedAnywhere(t *testing.T) {
 	for _, size := range []int{1, 55, 56, 63, 64, 65, 119, 120, 128, 200} {
-		text := textOf(size)
+		text := sample.Text(size)
 		want := slowSum(text)
 		for i := 0; i <= size; i++ {
 			if sha.Sum(text[:i], text[i:]) != want || sha.Sum(nil, text[:i], nil, []byte{}, text[i:], nil) != want {
@@ -248,7 +237,7 @@ func TestPartedAnywhere(t *testing.T) {
 
 // P2.2: parts of one length each, from single bytes on, with and without empty ones between.
 func TestManyParts(t *testing.T) {
-	text := textOf(1000)
+	text := sample.Text(1000)
 	want := slowSum(text)
 	for step := 1; step <= 200; step++ {
 		var plain, mixed [][]byte
@@ -268,12 +257,12 @@ func TestManyParts(t *testing.T) {
 
 // P2.2: parts of all kinds of lengths, a long one behind a short one and the other way round.
 func TestUnevenParts(t *testing.T) {
-	text := textOf(3000)
+	text := sample.Text(3000)
 	want := slowSum(text)
 	for seed := range 200 {
 		var parts [][]byte
 		rest := text
-		for _, size := range textOf(seed) {
+		for _, size := range sample.Text(seed) {
 			n := min(int(size), len(rest))
 			parts, rest = append(parts, rest[:n]), rest[n:]
 		}
@@ -285,7 +274,7 @@ func TestUnevenParts(t *testing.T) {
 
 // P2.2: parts that share their bytes are texts of their own.
 func TestPartsThatShareBytes(t *testing.T) {
-	b := textOf(100)
+	b := sample.Text(100)
 	want := slowSum(append(append(bytes.Clone(b), b[10:90]...), b...))
 	if sha.Sum(b, b[10:90], b) != want {
 		t.Error("a part that is handed in twice is not taken in twice")
@@ -295,7 +284,7 @@ func TestPartsThatShareBytes(t *testing.T) {
 // R3: what is handed in is not changed, nor what lies behind it, nor the list of parts.
 func TestNothingIsChanged(t *testing.T) {
 	for _, size := range []int{0, 1, 55, 56, 63, 64, 65, 128, 200} {
-		whole := textOf(size + 200)
+		whole := sample.Text(size + 200)
 		before := bytes.Clone(whole)
 		parts := [][]byte{whole[:size], nil, whole[size : size+10], {}}
 		sha.Sum(parts...)
@@ -311,10 +300,10 @@ func TestNothingIsChanged(t *testing.T) {
 
 // R5: nothing is kept from call to call, and each answer is its own.
 func TestNothingIsKept(t *testing.T) {
-	text := textOf(100)
+	text := sample.Text(100)
 	first := sha.Sum(text)
 	held := first
-	sha.Sum(textOf(77), nil, textOf(3))
+	sha.Sum(sample.Text(77), nil, sample.Text(3))
 	sha.Sum()
 	if first != held || sha.Sum(text) != held {
 		t.Error("the same call answers otherwise")

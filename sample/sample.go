@@ -1,0 +1,39 @@
+// Package sample makes what the tests of several packages are fed. No layer calls it.
+package sample
+
+import (
+	"strconv"
+	"strings"
+
+	"tappet/api"
+)
+
+// Text answers a text of that many bytes, alike in each run, and with no short period.
+func Text(size int) []byte {
+	b := make([]byte, max(size, 0))
+	state := uint32(size)*2654435761 + 1
+	for i := range b {
+		state = state*1664525 + 1013904223
+		b[i] = byte(state >> 24)
+	}
+	return b
+}
+
+// Digest reads a digest as the chapters' tables have it: eight numbers to the base 16, spaces between them. Of anything else it answers false.
+func Digest(digits string) (api.Digest, bool) {
+	var out api.Digest
+	words := strings.Fields(digits)
+	if len(words) != len(out)/4 {
+		return api.Digest{}, false
+	}
+	for i, word := range words {
+		x, err := strconv.ParseUint(word, 16, 32)
+		if err != nil || len(word) != 8 {
+			return api.Digest{}, false
+		}
+		for k := range 4 {
+			out[4*i+k] = byte(x >> (24 - 8*k))
+		}
+	}
+	return out, true
+}
