@@ -5,6 +5,7 @@ import (
 	"testing"
 
 	"tappet/crc"
+	"tappet/sample"
 )
 
 const all = uint32(1<<32 - 1)
@@ -30,22 +31,6 @@ func remainder(rest uint32, b []byte) uint32 {
 }
 
 func slowSum(b []byte) uint32 { return all - remainder(all, b) }
-
-// numbers are a fixed row, alike in each run.
-type numbers struct{ state uint64 }
-
-func (n *numbers) next() uint32 {
-	n.state = n.state*6364136223846793005 + 1442695040888963407
-	return uint32(n.state >> 32)
-}
-
-func (n *numbers) bytes(count int) []byte {
-	b := make([]byte, count)
-	for i := range b {
-		b[i] = byte(n.next() >> 24)
-	}
-	return b
-}
 
 // bytesOf answers four bytes whose sum is that one: the bits' way is gone backwards.
 func bytesOf(sum uint32) []byte {
@@ -125,14 +110,14 @@ func TestSumOfOneAndTwoBytes(t *testing.T) {
 
 // P1.1: rows of all lengths up to some hundreds, and a long one, as the rule says it bit by bit.
 func TestSumByTheRule(t *testing.T) {
-	row := &numbers{1}
+	row := sample.From(1)
 	for size := range 400 {
-		b := row.bytes(size)
+		b := row.Bytes(size)
 		if got, want := crc.Sum(b), slowSum(b); got != want {
 			t.Fatalf("%d bytes: %08x, want %08x", size, got, want)
 		}
 	}
-	for _, b := range [][]byte{row.bytes(1 << 19), make([]byte, 1<<19+1), bytes.Repeat([]byte{255}, 1<<19-1)} {
+	for _, b := range [][]byte{row.Bytes(1 << 19), make([]byte, 1<<19+1), bytes.Repeat([]byte{255}, 1<<19-1)} {
 		if got, want := crc.Sum(b), slowSum(b); got != want {
 			t.Fatalf("%d bytes: %08x, want %08x", len(b), got, want)
 		}
@@ -148,7 +133,7 @@ func TestMoreExample(t *testing.T) {
 
 // P1.2: bytes parted anywhere, also with nothing in a part.
 func TestMoreOfParts(t *testing.T) {
-	b := (&numbers{2}).bytes(70)
+	b := sample.From(2).Bytes(70)
 	want := slowSum(b)
 	for i := 0; i <= len(b); i++ {
 		if got := crc.More(crc.Sum(b[:i]), b[i:]); got != want {
@@ -175,22 +160,22 @@ func sums() []uint32 {
 	for n := range 32 {
 		list = append(list, 1<<n, all-1<<n)
 	}
-	row := &numbers{3}
+	row := sample.From(3)
 	for range 200 {
-		list = append(list, row.next())
+		list = append(list, uint32(row.Next()))
 	}
 	return list
 }
 
 // P1.2: from any sum, which is that of four bytes at least.
 func TestMoreFromAnySum(t *testing.T) {
-	row := &numbers{4}
+	row := sample.From(4)
 	for i, sum := range sums() {
 		ahead := bytesOf(sum)
 		if slowSum(ahead) != sum {
 			t.Fatalf("the test's own bytes of %08x have the sum %08x", sum, slowSum(ahead))
 		}
-		for _, b := range [][]byte{nil, {}, {0}, {255}, row.bytes(1 + i%40)} {
+		for _, b := range [][]byte{nil, {}, {0}, {255}, row.Bytes(1 + i%40)} {
 			want := slowSum(append(bytes.Clone(ahead), b...))
 			if got := crc.More(sum, b); got != want {
 				t.Fatalf("More(%08x, %v) = %08x, want %08x", sum, b, got, want)
@@ -201,9 +186,9 @@ func TestMoreFromAnySum(t *testing.T) {
 
 // P1.2: whatever bytes had that sum, what comes behind them makes the same one.
 func TestMoreWhateverBytesTheyWere(t *testing.T) {
-	row := &numbers{5}
+	row := sample.From(5)
 	for size := range 40 {
-		first, b := row.bytes(size), row.bytes(17)
+		first, b := row.Bytes(size), row.Bytes(17)
 		other := bytesOf(crc.Sum(first))
 		if crc.Sum(append(first, b...)) != crc.Sum(append(other, b...)) {
 			t.Fatalf("%d bytes: two rows of one sum go on otherwise", size)
@@ -229,18 +214,18 @@ func bursts() []uint64 {
 	for low := uint64(1); low < 512; low += 2 {
 		list = append(list, low)
 	}
-	row := &numbers{6}
+	row := sample.From(6)
 	for range 300 {
-		list = append(list, uint64(row.next())|1, uint64(row.next())|1<<31|1)
+		list = append(list, row.Next()&(1<<32-1)|1, row.Next()&(1<<32-1)|1<<31|1)
 	}
 	return list
 }
 
 // P1.3: rows that are unlike within 32 bits one behind the other, wherever, also across bytes.
 func TestBursts(t *testing.T) {
-	row := &numbers{7}
+	row := sample.From(7)
 	for size := 1; size <= 12; size++ {
-		b := row.bytes(size)
+		b := row.Bytes(size)
 		sum := crc.Sum(b)
 		for _, pattern := range bursts() {
 			for at := range size * 8 {
@@ -257,7 +242,7 @@ func TestBursts(t *testing.T) {
 
 // P1.3: bursts in a long row, at its beginning, its end, and about its middle.
 func TestBurstsInALongRow(t *testing.T) {
-	b := (&numbers{8}).bytes(1000)
+	b := sample.From(8).Bytes(1000)
 	sum := crc.Sum(b)
 	for _, pattern := range bursts()[:100] {
 		for _, at := range []int{0, 1, 7, 3999, 4000, 7961, 7968} {
@@ -270,7 +255,7 @@ func TestBurstsInALongRow(t *testing.T) {
 
 // P1.3's edge: over 33 bits two rows may have one sum, and the rule says which.
 func TestThirtyThreeBitsMayBeAlike(t *testing.T) {
-	b := (&numbers{9}).bytes(9)
+	b := sample.From(9).Bytes(9)
 	for at := range 9*8 - 33 + 1 {
 		if crc.Sum(turned(b, at, 3988292384<<1|1)) != crc.Sum(b) {
 			t.Fatalf("from bit %d on: unlike sums", at)
@@ -280,9 +265,9 @@ func TestThirtyThreeBitsMayBeAlike(t *testing.T) {
 
 // P1.4: three rows turned by one another; also alike ones, and of no bytes.
 func TestThreeRows(t *testing.T) {
-	row := &numbers{10}
+	row := sample.From(10)
 	for size := range 100 {
-		a, b, c := row.bytes(size), row.bytes(size), row.bytes(size)
+		a, b, c := row.Bytes(size), row.Bytes(size), row.Bytes(size)
 		for _, l := range [][3][]byte{{a, b, c}, {a, a, c}, {a, a, a}, {a, make([]byte, size), bytes.Repeat([]byte{255}, size)}} {
 			mixed := make([]byte, size)
 			for i := range mixed {
@@ -298,7 +283,7 @@ func TestThreeRows(t *testing.T) {
 
 // R3 and R5: what is handed in is not changed, nor what lies behind it, and each call answers the same.
 func TestNothingIsChangedOrKept(t *testing.T) {
-	whole := (&numbers{11}).bytes(64)
+	whole := sample.From(11).Bytes(64)
 	before := bytes.Clone(whole)
 	b := whole[8:40]
 	sum, more := crc.Sum(b), crc.More(12345, b)

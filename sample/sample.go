@@ -37,3 +37,27 @@ func Digest(digits string) (api.Digest, bool) {
 	}
 	return out, true
 }
+
+// Row is numbers without a plain rule, alike in each run.
+type Row struct{ state uint64 }
+
+// From answers a row; unlike seeds have unlike ones.
+func From(seed uint64) *Row { return &Row{seed} }
+
+// Next answers the row's next number.
+func (r *Row) Next() uint64 {
+	r.state = r.state*6364136223846793005 + 1442695040888963407
+	return r.state>>32 ^ r.state<<31
+}
+
+// Below answers the next number from 0 to n - 1; n is 1 at least.
+func (r *Row) Below(n int) int { return int(r.Next() >> 1 % uint64(n)) }
+
+// Bytes answers the next bytes, as many as told.
+func (r *Row) Bytes(count int) []byte {
+	b := make([]byte, count)
+	for i := range b {
+		b[i] = byte(r.Next() >> 24)
+	}
+	return b
+}

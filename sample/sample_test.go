@@ -37,3 +37,55 @@ func TestDigest(t *testing.T) {
 		}
 	}
 }
+
+func TestRow(t *testing.T) {
+	row, again, other := sample.From(1), sample.From(1), sample.From(2)
+	alike := 0
+	for range 1000 {
+		x := row.Next()
+		if again.Next() != x {
+			t.Fatal("a row of the same seed is another one")
+		}
+		if other.Next() == x {
+			alike++
+		}
+	}
+	if alike > 0 {
+		t.Errorf("rows of unlike seeds have %d numbers of 1000 in common", alike)
+	}
+}
+
+func TestRowBelow(t *testing.T) {
+	row := sample.From(3)
+	for n := 1; n <= 20; n++ {
+		var seen [20]int
+		for range 200 * n {
+			x := row.Below(n)
+			if x < 0 || x >= n {
+				t.Fatalf("Below(%d) answers %d", n, x)
+			}
+			seen[x]++
+		}
+		for x := range n {
+			if seen[x] < 100 || seen[x] > 300 {
+				t.Errorf("Below(%d) answers %d in %d of %d calls", n, x, seen[x], 200*n)
+			}
+		}
+	}
+}
+
+func TestRowBytes(t *testing.T) {
+	b := sample.From(4).Bytes(4096)
+	if len(b) != 4096 || !bytes.Equal(b, sample.From(4).Bytes(4096)) || len(sample.From(4).Bytes(0)) != 0 {
+		t.Errorf("Bytes answers %d bytes, or others each time", len(b))
+	}
+	var seen [256]bool
+	for _, x := range b {
+		seen[x] = true
+	}
+	for x, ok := range seen {
+		if !ok {
+			t.Errorf("no byte of 4096 is %d", x)
+		}
+	}
+}

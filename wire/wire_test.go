@@ -731,19 +731,12 @@ func sameTree(a, b tree) bool {
 	return a.kind == b.kind && a.n == b.n && bytes.Equal(a.b, b.b) && slices.EqualFunc(a.l, b.l, sameTree)
 }
 
-// row is numbers that are alike in each run.
-type row struct{ state uint64 }
-
-func (s *row) next() uint64 {
-	s.state = s.state*6364136223846793005 + 1442695040888963407
-	return s.state>>32 ^ s.state<<31
-}
-
-func (s *row) below(n int) int { return int(s.next() >> 1 % uint64(n)) }
+// row makes trees up, alike in each run.
+type row struct{ *sample.Row }
 
 // shape makes one up: lists go no deeper than that.
-func (s *row) shape(deep int) tree {
-	kind := s.below(kinds)
+func (s row) shape(deep int) tree {
+	kind := s.Below(kinds)
 	if kind != kindList {
 		return tree{kind: kind}
 	}
@@ -754,32 +747,32 @@ func (s *row) shape(deep int) tree {
 }
 
 // fill makes a tree of that shape up.
-func (s *row) fill(shape tree) tree {
+func (s row) fill(shape tree) tree {
 	x := tree{kind: shape.kind}
 	switch x.kind {
 	case kindBytes:
-		x.b = sample.Text(s.below(20))
+		x.b = sample.Text(s.Below(20))
 	case kindList:
-		for range s.below(5) {
+		for range s.Below(5) {
 			x.l = append(x.l, s.fill(shape.l[0]))
 		}
 	case kindI32:
-		x.n = uint64(int64(int32(s.next())))
+		x.n = uint64(int64(int32(s.Next())))
 	case kindU64:
-		x.n = s.next()
+		x.n = s.Next()
 	default:
-		x.n = s.next() & (1<<(8<<x.kind) - 1)
+		x.n = s.Next() & (1<<(8<<x.kind) - 1)
 	}
 	return x
 }
 
 // P4.3: what was written is read as it was, lists of lists among it, and behind it End is OK; cut off it is not there.
 func TestWrittenIsRead(t *testing.T) {
-	s := &row{1}
+	s := row{sample.From(1)}
 	for round := range 3000 {
 		var w wire.Writer
 		var shapes, all []tree
-		for range s.below(8) {
+		for range s.Below(8) {
 			shape := s.shape(3)
 			shapes, all = append(shapes, shape), append(all, s.fill(shape))
 			put(&w, all[len(all)-1])
@@ -801,7 +794,7 @@ func TestWrittenIsRead(t *testing.T) {
 		if len(b) == 0 {
 			continue
 		}
-		r = wire.From(b[:s.below(len(b))])
+		r = wire.From(b[:s.Below(len(b))])
 		for _, shape := range shapes {
 			take(shape)(r)
 		}
@@ -813,19 +806,19 @@ func TestWrittenIsRead(t *testing.T) {
 
 // P4.3: whatever bytes can be read as values of some kinds, these values are written with just these bytes.
 func TestReadIsWritten(t *testing.T) {
-	s := &row{2}
+	s := row{sample.From(2)}
 	read := 0
 	for round := range 20000 {
-		b := sample.Text(s.below(60) + 1)
+		b := sample.Text(s.Below(60) + 1)
 		// Counts are seldom small in bytes of all kinds, so most bytes are made so.
 		for i := range b {
-			if s.below(8) > 0 {
-				b[i] = byte(s.below(3) * s.below(2))
+			if s.Below(8) > 0 {
+				b[i] = byte(s.Below(3) * s.Below(2))
 			}
 		}
 		r := wire.From(b)
 		var w wire.Writer
-		for range s.below(6) {
+		for range s.Below(6) {
 			at := r.At()
 			shape := s.shape(3)
 			x := take(shape)(r)
