@@ -22,11 +22,6 @@ func def(words, writer int, readers ...int) api.PortDef {
 // list is a short form.
 func list(l ...api.PortDef) []api.PortDef { return l }
 
-// edges are numbers about those where something begins or ends, below 0, and huge.
-func edges() []int {
-	return []int{math.MinInt, math.MinInt32, -256, -64, -2, -1, 0, 1, 2, 3, 4, 5, 6, 7, 8, 9, 15, 16, 17, 31, 32, 33, 63, 64, 65, 255, 256, 257, 1 << 32, 1<<32 + 1, math.MaxInt32, math.MaxInt}
-}
-
 // state is all that a port has by the chapter's words.
 type state struct {
 	message []uint32
@@ -62,22 +57,12 @@ func (m *model) copied() *model {
 	return other
 }
 
-// isReader looks for the partition among those that there are at all.
-func isReader(d api.PortDef, part int) bool {
-	for n := range 8 {
-		if part == n && d.Readers&(1<<n) != 0 {
-			return true
-		}
-	}
-	return false
-}
-
 // lets tells what keeps the partition from reading the port, or from writing it.
 func (m *model) lets(part, port int, toRead bool) api.Errno {
 	if port < 0 || port > len(m.defs)-1 {
 		return api.ErrNone
 	}
-	if d := m.defs[port]; part == d.Writer || toRead && isReader(d, part) {
+	if d := m.defs[port]; part == d.Writer || toRead && sample.InSet(d.Readers, part) {
 		return api.OK
 	}
 	return api.ErrRights
@@ -400,7 +385,7 @@ func TestCheck(t *testing.T) {
 // P7.1: all small definitions, as the words say it.
 func TestCheckByTheWords(t *testing.T) {
 	mayBe := func(d api.PortDef) bool {
-		return d.Words >= 1 && d.Words <= 16 && d.Writer >= 0 && d.Writer <= 7 && d.Readers <= 255 && !isReader(d, d.Writer)
+		return d.Words >= 1 && d.Words <= 16 && d.Writer >= 0 && d.Writer <= 7 && d.Readers <= 255 && !sample.InSet(d.Readers, d.Writer)
 	}
 	for words := -2; words < 20; words++ {
 		for writer := -2; writer < 12; writer++ {
@@ -442,7 +427,7 @@ func TestAtFirst(t *testing.T) {
 				t.Errorf("of %d ports number %d is at first %v, want %v", count, n, s, want)
 			}
 		}
-		for _, n := range edges() {
+		for _, n := range sample.Edges() {
 			message, age := p.Message(n)
 			if there := n >= 0 && n < count; there && (len(message) != n+1 || age != 255) || !there && (len(message) != 0 || age != 0) {
 				t.Errorf("of %d ports: Message(%d) tells %v, %d", count, n, message, age)
@@ -454,7 +439,7 @@ func TestAtFirst(t *testing.T) {
 // P7.1: a port that there is not has no message, also once the others have some.
 func TestMessageOfNone(t *testing.T) {
 	q := full(t)
-	for _, n := range edges() {
+	for _, n := range sample.Edges() {
 		message, age := q.p.Message(n)
 		switch {
 		case n >= 0 && n < len(q.m.defs):
@@ -484,7 +469,7 @@ func TestNoPorts(t *testing.T) {
 		p.Commit()
 		p.Unsend(0)
 		p.Drop(0)
-		for _, n := range edges() {
+		for _, n := range sample.Edges() {
 			if message, age := p.Message(n); len(message) != 0 || age != 0 {
 				t.Errorf("Message(%d) tells %v, %d", n, message, age)
 			}
@@ -561,9 +546,9 @@ func TestWhoReads(t *testing.T) {
 		q.put(d.Writer, 0, 1, 77)
 		q.send(d.Writer, 0)
 		q.commit()
-		for _, part := range edges() {
+		for _, part := range sample.Edges() {
 			want := api.ErrRights
-			if part == d.Writer || isReader(d, part) {
+			if part == d.Writer || sample.InSet(d.Readers, part) {
 				want = api.OK
 			}
 			if err := q.read(part, 0, 1); err != want {
@@ -585,7 +570,7 @@ func TestWhatIsRead(t *testing.T) {
 		}
 		q.send(1, 1)
 		q.commit()
-		for _, n := range edges() {
+		for _, n := range sample.Edges() {
 			want, x := api.ErrRange, uint32(0)
 			if n >= 0 && n < words {
 				want, x = api.OK, uint32(1000+n)
@@ -607,7 +592,7 @@ func TestWhatIsRead(t *testing.T) {
 // P7.3: Put and Send by whatever partition: the writer alone; what is let to nobody changes nothing.
 func TestWhoWrites(t *testing.T) {
 	for _, d := range []api.PortDef{def(2, 1, 0, 2), def(2, 0), def(2, 7), def(2, 3, 0, 1, 2, 4, 5, 6, 7), def(2, 0, 1, 2, 3, 4, 5, 6, 7)} {
-		for _, part := range edges() {
+		for _, part := range sample.Edges() {
 			q := twinOf(t, d, def(2, 3))
 			want := api.ErrRights
 			if part == d.Writer {
@@ -632,7 +617,7 @@ func TestWhoWrites(t *testing.T) {
 func TestWhatIsWritten(t *testing.T) {
 	for words := 1; words <= 16; words++ {
 		q := twinOf(t, def(16, 1), def(words, 1, 0), def(16, 1))
-		for _, n := range edges() {
+		for _, n := range sample.Edges() {
 			want := api.ErrRange
 			if n >= 0 && n < words {
 				want = api.OK
@@ -759,7 +744,7 @@ func TestAges(t *testing.T) {
 // P7.4: Unsend and Drop, by whatever partition, of ports of one that writes several, of one that writes one, and of others.
 func TestUnsendAndDrop(t *testing.T) {
 	defs := list(def(2, 1, 0), def(1, 0, 1), def(16, 1, 0), def(3, 7, 1), def(2, 1))
-	for _, part := range edges() {
+	for _, part := range sample.Edges() {
 		for _, drops := range []bool{false, true} {
 			q := twinOf(t, defs...)
 			for n, d := range defs {
@@ -840,20 +825,20 @@ func TestNil(t *testing.T) {
 	if p.Copy() != nil {
 		t.Error("Copy of nil tells ports")
 	}
-	for _, part := range edges() {
+	for _, part := range sample.Edges() {
 		p.Unsend(part)
 		p.Drop(part)
 		if message, age := p.Message(part); len(message) != 0 || age != 0 {
 			t.Errorf("Message(%d) of nil tells %v, %d", part, message, age)
 		}
-		for _, n := range edges() {
+		for _, n := range sample.Edges() {
 			if x, err := p.Age(part, n); x != 0 || err != api.ErrNil {
 				t.Errorf("Age(%d, %d) of nil tells %d, %d", part, n, x, err)
 			}
 			if err := p.Send(part, n); err != api.ErrNil {
 				t.Errorf("Send(%d, %d) of nil tells %d", part, n, err)
 			}
-			for _, word := range edges() {
+			for _, word := range sample.Edges() {
 				if x, err := p.Read(part, n, word); x != 0 || err != api.ErrNil {
 					t.Errorf("Read(%d, %d, %d) of nil tells %d, %d", part, n, word, x, err)
 				}
@@ -898,7 +883,7 @@ func TestWhichErrorIsFirst(t *testing.T) {
 		}
 	}
 	q := full(t)
-	for _, part := range edges() {
+	for _, part := range sample.Edges() {
 		for _, n := range []int{math.MinInt, -1, 0, 1, 4, 5, 16, math.MaxInt} {
 			for _, word := range []int{math.MinInt, -1, 0, 1, 2, 15, 16, math.MaxInt} {
 				q.read(part, n, word)
@@ -981,17 +966,6 @@ func someDefs(row *sample.Row) []api.PortDef {
 	return l
 }
 
-// someNumber answers most often a number below that bound, else one about it, or at an edge.
-func someNumber(row *sample.Row, bound int) int {
-	switch row.Below(12) {
-	case 0:
-		return edges()[row.Below(len(edges()))]
-	case 1:
-		return bound
-	}
-	return row.Below(bound)
-}
-
 // P7.2 to P7.4, R2: any calls, one behind the other, on several ports, as the words say it word by word; what tells an error changes nothing.
 func TestCallsByTheWords(t *testing.T) {
 	row := sample.From(7)
@@ -999,8 +973,8 @@ func TestCallsByTheWords(t *testing.T) {
 	for range 150 {
 		q := twinOf(t, someDefs(row)...)
 		for range 300 {
-			n := someNumber(row, len(q.m.defs))
-			part, word := someNumber(row, 5), someNumber(row, 4)
+			n := row.About(len(q.m.defs))
+			part, word := row.About(5), row.About(4)
 			// Most often the port's own words, asked for by one who may.
 			if n >= 0 && n < len(q.m.defs) && row.Below(3) > 0 {
 				part = q.m.defs[n].Writer
@@ -1167,7 +1141,7 @@ func TestReadersReadWhatWasLastSent(t *testing.T) {
 func readAll(t *testing.T, p *port.Ports, number int, d api.PortDef, want []uint32, wantAge uint32) {
 	t.Helper()
 	for part := range 9 {
-		may := part == d.Writer || isReader(d, part)
+		may := part == d.Writer || sample.InSet(d.Readers, part)
 		age, err := p.Age(part, number)
 		if may && (age != wantAge || err != api.OK) || !may && err != api.ErrRights {
 			t.Fatalf("partition %d reads at port %d of %v an age of %d, %d; want %d", part, number, d, age, err, wantAge)

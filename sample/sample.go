@@ -2,6 +2,7 @@
 package sample
 
 import (
+	"math"
 	"strconv"
 	"strings"
 
@@ -38,6 +39,21 @@ func Digest(digits string) (api.Digest, bool) {
 	return out, true
 }
 
+// Edges answers numbers about those where something begins or ends, below 0, and huge.
+func Edges() []int {
+	return []int{math.MinInt, math.MinInt32, -256, -64, -2, -1, 0, 1, 2, 3, 4, 5, 6, 7, 8, 9, 15, 16, 17, 31, 32, 33, 63, 64, 65, 255, 256, 257, math.MaxInt32, 1 << 32, 1<<32 + 1, math.MaxInt}
+}
+
+// InSet tells whether the partition is in a set of them, by looking for it among all that there may be.
+func InSet(set uint32, part int) bool {
+	for n := range api.MaxParts {
+		if part == n && set&(1<<n) != 0 {
+			return true
+		}
+	}
+	return false
+}
+
 // Row is numbers without a plain rule, alike in each run.
 type Row struct{ state uint64 }
 
@@ -60,4 +76,15 @@ func (r *Row) Bytes(count int) []byte {
 		b[i] = byte(r.Next() >> 24)
 	}
 	return b
+}
+
+// About answers most often the next number from 0 to bound - 1, else the bound or one of Edges; where the bound is 0 or less, 0 goes for its numbers.
+func (r *Row) About(bound int) int {
+	switch r.Below(12) {
+	case 0:
+		return Edges()[r.Below(len(Edges()))]
+	case 1:
+		return bound
+	}
+	return r.Below(max(bound, 1))
 }

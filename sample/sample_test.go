@@ -2,6 +2,7 @@ package sample_test
 
 import (
 	"bytes"
+	"math"
 	"testing"
 
 	"tappet/api"
@@ -86,6 +87,53 @@ func TestRowBytes(t *testing.T) {
 	for x, ok := range seen {
 		if !ok {
 			t.Errorf("no byte of 4096 is %d", x)
+		}
+	}
+}
+
+func TestEdges(t *testing.T) {
+	l := sample.Edges()
+	for i := 1; i < len(l); i++ {
+		if l[i] <= l[i-1] {
+			t.Errorf("Edges has %d behind %d", l[i], l[i-1])
+		}
+	}
+	if l[0] != math.MinInt || l[len(l)-1] != math.MaxInt {
+		t.Errorf("Edges goes from %d to %d", l[0], l[len(l)-1])
+	}
+	l[0] = 1
+	if sample.Edges()[0] == 1 {
+		t.Error("Edges hands out a list of its own")
+	}
+}
+
+func TestInSet(t *testing.T) {
+	for set := range uint32(512) {
+		for _, part := range sample.Edges() {
+			want := part >= 0 && part < 8 && set/uint32(math.Pow(2, float64(part)))%2 == 1
+			if got := sample.InSet(set, part); got != want {
+				t.Fatalf("InSet(%d, %d) tells %v", set, part, got)
+			}
+		}
+	}
+}
+
+func TestRowAbout(t *testing.T) {
+	row := sample.From(5)
+	for bound := range 6 {
+		below, at, others := 0, 0, 0
+		for range 1200 {
+			switch x := row.About(bound); {
+			case x == bound:
+				at++
+			case x >= 0 && x < max(bound, 1):
+				below++
+			default:
+				others++
+			}
+		}
+		if bound > 0 && below < 900 || at < 50 || others < 30 {
+			t.Errorf("About(%d) tells %d numbers below it, %d times itself, %d others", bound, below, at, others)
 		}
 	}
 }
