@@ -19,51 +19,11 @@ const (
 	mostC = math.MaxUint32
 )
 
-// row is one of the chapter's table, Op by Op; what may be named is written out.
-type row struct {
-	op           uint8
-	name         string
-	takes, gives int
-	digit        []uint8  // A, right behind the name
-	as           []uint8  // A, behind a blank
-	bs           []uint16 // B
-	c            bool     // whatever C
-}
-
-// rows are the chapter's table, by its numbers.
-func rows() []row {
-	sizes := []uint8{1, 2, 4}
-	as := []uint8{0, 1, 2, 3, 4, 5, 6, 7, 8, 9, 10, 11, 12, 13, 14, 15}
-	bs := []uint16{0, 1, 2, 3, 4, 5, 6, 7, 8, 9, 10, 11, 12, 13, 14, 15}
-	l := []row{
-		{op: 1, name: "push", takes: 0, gives: 1, c: true},
-		{op: 2, name: "dup", takes: 1, gives: 2},
-		{op: 3, name: "drop", takes: 1, gives: 0},
-		{op: 4, name: "swap", takes: 2, gives: 2},
-	}
-	for n, name := range strings.Fields("add sub mul div mod and or xor shl shr eq less") {
-		l = append(l, row{op: uint8(5 + n), name: name, takes: 2, gives: 1})
-	}
-	return append(l,
-		row{op: 17, name: "load", takes: 1, gives: 1, digit: sizes, c: true},
-		row{op: 18, name: "store", takes: 2, gives: 0, digit: sizes, c: true},
-		row{op: 19, name: "jump", takes: 0, gives: 0, c: true},
-		row{op: 20, name: "zero", takes: 1, gives: 0, c: true},
-		row{op: 21, name: "in", takes: 0, gives: 1, as: as},
-		row{op: 22, name: "out", takes: 1, gives: 0, as: as},
-		row{op: 23, name: "read", takes: 0, gives: 1, as: as, bs: bs},
-		row{op: 24, name: "age", takes: 0, gives: 1, as: as},
-		row{op: 25, name: "put", takes: 1, gives: 0, as: as, bs: bs},
-		row{op: 26, name: "send", takes: 0, gives: 0, as: as},
-		row{op: 27, name: "yield", takes: 0, gives: 0},
-	)
-}
-
-// rowOf answers the row of an Op, and whether there is one.
-func rowOf(l []row, op uint8) (row, bool) {
-	n := slices.IndexFunc(l, func(r row) bool { return r.op == op })
+// kindOf answers the kind of an Op, and whether there is one.
+func kindOf(l []sample.Kind, op uint8) (sample.Kind, bool) {
+	n := slices.IndexFunc(l, func(k sample.Kind) bool { return k.Op == op })
 	if n < 0 {
-		return row{}, false
+		return sample.Kind{}, false
 	}
 	return l[n], true
 }
@@ -72,28 +32,28 @@ func rowOf(l []row, op uint8) (row, bool) {
 func among[T uint8 | uint16](l []T, x T) bool { return slices.Contains(l, x) || l == nil && x == 0 }
 
 // may is May by the words.
-func may(l []row, i api.Instr) bool {
-	r, is := rowOf(l, i.Op)
-	return is && among(append(slices.Clone(r.digit), r.as...), i.A) && among(r.bs, i.B) && (r.c || i.C == 0)
+func may(l []sample.Kind, i api.Instr) bool {
+	k, is := kindOf(l, i.Op)
+	return is && among(append(slices.Clone(k.Digit), k.As...), i.A) && among(k.Bs, i.B) && (k.C || i.C == 0)
 }
 
 // text is Text by the words.
-func text(l []row, i api.Instr) string {
+func text(l []sample.Kind, i api.Instr) string {
 	if !may(l, i) {
 		return ""
 	}
-	r, _ := rowOf(l, i.Op)
-	words := []string{r.name}
-	if r.digit != nil {
+	k, _ := kindOf(l, i.Op)
+	words := []string{k.Name}
+	if k.Digit != nil {
 		words[0] += strconv.Itoa(int(i.A))
 	}
-	if r.as != nil {
+	if k.As != nil {
 		words = append(words, strconv.Itoa(int(i.A)))
 	}
-	if r.bs != nil {
+	if k.Bs != nil {
 		words = append(words, strconv.Itoa(int(i.B)))
 	}
-	if r.c {
+	if k.C {
 		words = append(words, strconv.Itoa(int(i.C)))
 	}
 	return strings.Join(words, " ")
@@ -136,11 +96,11 @@ func edges(yield func(api.Instr) bool) {
 // all answers the instructions among edges, as the words say it.
 func all() []api.Instr {
 	var l []api.Instr
-	for _, r := range rows() {
+	for _, k := range sample.Kinds() {
 		for a := range 256 {
 			for b := range 20 {
 				for _, c := range edgesC() {
-					if i := (api.Instr{Op: r.op, A: uint8(a), B: uint16(b), C: c}); may([]row{r}, i) {
+					if i := (api.Instr{Op: k.Op, A: uint8(a), B: uint16(b), C: c}); may([]sample.Kind{k}, i) {
 						l = append(l, i)
 					}
 				}
@@ -148,32 +108,6 @@ func all() []api.Instr {
 		}
 	}
 	return l
-}
-
-// some answers an instruction, with whatever C where one is named; of two one has one thing that is whatever it may be, so that most of these are none.
-func some(feed *sample.Row, l []row) api.Instr {
-	r := l[feed.Below(len(l))]
-	i := api.Instr{Op: r.op}
-	if as := append(slices.Clone(r.digit), r.as...); len(as) > 0 {
-		i.A = as[feed.Below(len(as))]
-	}
-	if len(r.bs) > 0 {
-		i.B = r.bs[feed.Below(len(r.bs))]
-	}
-	if r.c {
-		i.C = uint32(feed.Next()) >> feed.Below(32)
-	}
-	switch feed.Below(8) {
-	case 0:
-		i.Op = uint8(feed.Next())
-	case 1:
-		i.A = uint8(feed.Next())
-	case 2:
-		i.B = uint16(feed.Next()) >> feed.Below(16)
-	case 3:
-		i.C = uint32(feed.Next()) >> feed.Below(32)
-	}
-	return i
 }
 
 // reads fails the test unless Read of the bytes tells that.
@@ -225,48 +159,48 @@ func TestOps(t *testing.T) {
 		api.OpPush, api.OpDup, api.OpDrop, api.OpSwap, api.OpAdd, api.OpSub, api.OpMul, api.OpDiv, api.OpMod, api.OpAnd, api.OpOr, api.OpXor, api.OpShl, api.OpShr, api.OpEq, api.OpLess,
 		api.OpLoad, api.OpStore, api.OpJump, api.OpZero, api.OpIn, api.OpOut, api.OpRead, api.OpAge, api.OpPut, api.OpSend, api.OpYield,
 	}
-	for n, r := range rows() {
-		if r.op != ops[n] || int(r.op) != n+1 {
-			t.Errorf("%s is %d, want %d", r.name, ops[n], r.op)
+	for n, k := range sample.Kinds() {
+		if k.Op != ops[n] || int(k.Op) != n+1 {
+			t.Errorf("%s is %d, want %d", k.Name, ops[n], k.Op)
 		}
 	}
 }
 
 // P9.1: each Op: what it takes and gives, whether it jumps, and whether it is an instruction with the least that it may name.
 func TestEachOp(t *testing.T) {
-	l := rows()
+	l := sample.Kinds()
 	for n := range 256 {
 		op := uint8(n)
-		r, there := rowOf(l, op)
-		if isa.Takes(op) != r.takes || isa.Gives(op) != r.gives {
-			t.Errorf("Op %d takes %d, gives %d; want %d, %d", op, isa.Takes(op), isa.Gives(op), r.takes, r.gives)
+		k, there := kindOf(l, op)
+		if isa.Takes(op) != k.Takes || isa.Gives(op) != k.Gives {
+			t.Errorf("Op %d takes %d, gives %d; want %d, %d", op, isa.Takes(op), isa.Gives(op), k.Takes, k.Gives)
 		}
 		if isa.Jumps(op) != (op == 19 || op == 20) {
 			t.Errorf("Jumps(%d) tells %v", op, isa.Jumps(op))
 		}
 		is(t, api.Instr{Op: op}, there && op != 17 && op != 18)
-		is(t, api.Instr{Op: op, A: 1}, there && (r.digit != nil || r.as != nil))
+		is(t, api.Instr{Op: op, A: 1}, there && (k.Digit != nil || k.As != nil))
 	}
 }
 
 // P9.1: what an instruction does not name is zero: one thing at a time.
 func TestWhatIsNotNamed(t *testing.T) {
-	for _, r := range rows() {
-		i := api.Instr{Op: r.op}
-		if r.digit != nil {
-			i.A = r.digit[0]
+	for _, k := range sample.Kinds() {
+		i := api.Instr{Op: k.Op}
+		if k.Digit != nil {
+			i.A = k.Digit[0]
 		}
 		is(t, i, true)
 		for _, x := range []uint32{1, 2, 255, 256, 65535, 65536, mostC} {
 			a, b, c := i, i, i
 			a.A, b.B, c.C = uint8(x), uint16(x), x
-			if r.digit == nil && r.as == nil && a.A != 0 {
+			if k.Digit == nil && k.As == nil && a.A != 0 {
 				is(t, a, false)
 			}
-			if r.bs == nil && b.B != 0 {
+			if k.Bs == nil && b.B != 0 {
 				is(t, b, false)
 			}
-			is(t, c, r.c)
+			is(t, c, k.C)
 		}
 	}
 }
@@ -324,7 +258,7 @@ func TestNumbers(t *testing.T) {
 
 // P9.1, P9.2, P9.3: whatever Op and A, with B and C at the edges: as the words say it.
 func TestByTheWords(t *testing.T) {
-	l := rows()
+	l := sample.Kinds()
 	are := 0
 	for i := range edges {
 		b := isa.Bytes(i)
@@ -402,10 +336,10 @@ func TestReadShort(t *testing.T) {
 
 // P9.2: what stands behind the first 8 bytes makes no difference, of an instruction and of none.
 func TestReadOfMany(t *testing.T) {
-	feed, l := sample.From(10), rows()
+	feed, l := sample.From(10), sample.Kinds()
 	for _, size := range []int{8, 9, 10, 15, 16, 17, 24, 255, 256, 4096} {
 		for range 200 {
-			i := some(feed, l)
+			i := feed.NearInstr(l)
 			want, wantErr := i, api.OK
 			if !may(l, i) {
 				want, wantErr = api.Instr{}, api.ErrOp
@@ -477,28 +411,28 @@ func TestNoText(t *testing.T) {
 
 // P9.3: the Op of each name.
 func TestOpOfNames(t *testing.T) {
-	for _, r := range rows() {
-		if got := isa.Op(r.name); got != r.op {
-			t.Errorf("Op(%q) tells %d, want %d", r.name, got, r.op)
+	for _, k := range sample.Kinds() {
+		if got := isa.Op(k.Name); got != k.Op {
+			t.Errorf("Op(%q) tells %d, want %d", k.Name, got, k.Op)
 		}
 	}
 }
 
 // P9.3: what is near to a name is none, and so is a text with what it names.
 func TestOpOfNoNames(t *testing.T) {
-	l := rows()
+	l := sample.Kinds()
 	names := map[string]bool{}
-	for _, r := range l {
-		names[r.name] = true
+	for _, k := range l {
+		names[k.Name] = true
 	}
 	wrong := []string{
 		"", " ", "\n", "\x00", "0", "1", "27", "op", "push 1", "jump 0", "in 0", "read 1 2", "load2 16", "store4 0",
 		"load0", "load1", "load2", "load3", "load4", "store1", "store2", "store4", "halt", "nop", "push:", "add sub", "é", "\xff", strings.Repeat("push", 1000),
 	}
-	for _, r := range l {
+	for _, k := range l {
 		wrong = append(wrong,
-			r.name+"s", r.name+"0", r.name+"\x00", "a"+r.name, r.name+r.name, r.name[1:], r.name[:len(r.name)-1],
-			" "+r.name, r.name+" ", "\t"+r.name, r.name+"\n", strings.ToUpper(r.name), strings.ToUpper(r.name[:1])+r.name[1:], r.name+" 0", r.name+" 1 2")
+			k.Name+"s", k.Name+"0", k.Name+"\x00", "a"+k.Name, k.Name+k.Name, k.Name[1:], k.Name[:len(k.Name)-1],
+			" "+k.Name, k.Name+" ", "\t"+k.Name, k.Name+"\n", strings.ToUpper(k.Name), strings.ToUpper(k.Name[:1])+k.Name[1:], k.Name+" 0", k.Name+" 1 2")
 	}
 	for _, name := range wrong {
 		if got := isa.Op(name); got != 0 && !names[name] {
@@ -524,7 +458,7 @@ func TestReadAsItWas(t *testing.T) {
 
 // P9.4: the bytes of what was read are just those that it was read from: of any bytes, and of an instruction's with one bit turned, or one byte another one.
 func TestJustTheseBytes(t *testing.T) {
-	feed, l := sample.From(12), rows()
+	feed, l := sample.From(12), sample.Kinds()
 	told := map[api.Errno]int{}
 	back := func(b []byte) {
 		i, err := isa.Read(b)
@@ -536,7 +470,7 @@ func TestJustTheseBytes(t *testing.T) {
 	for range 200_000 {
 		b := feed.Bytes(8)
 		if feed.Below(2) == 0 {
-			b = bytesOf(some(feed, l))
+			b = bytesOf(feed.NearInstr(l))
 		}
 		back(b)
 	}
@@ -560,7 +494,7 @@ func TestJustTheseBytes(t *testing.T) {
 
 // P9.4: unlike instructions have unlike texts, and unlike bytes; the same have the same.
 func TestUnlike(t *testing.T) {
-	feed, l := sample.From(13), rows()
+	feed, l := sample.From(13), sample.Kinds()
 	byText := map[string]api.Instr{}
 	byBytes := map[[8]byte]api.Instr{}
 	put := func(i api.Instr) {
@@ -584,7 +518,7 @@ func TestUnlike(t *testing.T) {
 		t.Errorf("there are %d texts, want %d", len(byText), want)
 	}
 	for range 200_000 {
-		put(some(feed, l))
+		put(feed.NearInstr(l))
 	}
 	for i := range edges {
 		if i.A < 20 || i.A == mostA {
@@ -595,9 +529,9 @@ func TestUnlike(t *testing.T) {
 
 // R3, R5: the bytes that Read was given are not changed, nor those behind them; the same bytes are read as the same again, and what Bytes answered may be changed.
 func TestBytesGoByThemselves(t *testing.T) {
-	feed, l := sample.From(14), rows()
+	feed, l := sample.From(14), sample.Kinds()
 	for range 20_000 {
-		b := append(bytesOf(some(feed, l)), feed.Bytes(feed.Below(12))...)
+		b := append(bytesOf(feed.NearInstr(l)), feed.Bytes(feed.Below(12))...)
 		before := slices.Clone(b)
 		b = b[:feed.Below(len(b)+1)]
 		got, err := isa.Read(b)

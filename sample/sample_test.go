@@ -3,6 +3,7 @@ package sample_test
 import (
 	"bytes"
 	"math"
+	"slices"
 	"testing"
 
 	"tappet/api"
@@ -135,5 +136,71 @@ func TestRowAbout(t *testing.T) {
 		if bound > 0 && below < 900 || at < 50 || others < 30 {
 			t.Errorf("About(%d) tells %d numbers below it, %d times itself, %d others", bound, below, at, others)
 		}
+	}
+}
+
+func TestKinds(t *testing.T) {
+	l := sample.Kinds()
+	if len(l) != 27 {
+		t.Fatalf("there are %d kinds of instructions", len(l))
+	}
+	names := map[string]bool{}
+	for n, k := range l {
+		if int(k.Op) != n+1 || k.Name == "" || names[k.Name] {
+			t.Errorf("kind %d is %+v", n, k)
+		}
+		names[k.Name] = true
+	}
+	l[0].Op = 9
+	l[16].Digit[0] = 9
+	if again := sample.Kinds(); again[0].Op != 1 || again[16].Digit[0] != 1 {
+		t.Error("Kinds hands out a list of its own")
+	}
+}
+
+// lets tells whether the kind lets an instruction name A, B and C so.
+func lets(k sample.Kind, i api.Instr) bool {
+	as := slices.Concat(k.Digit, k.As)
+	a := slices.Contains(as, i.A) || len(as) == 0 && i.A == 0
+	b := slices.Contains(k.Bs, i.B) || len(k.Bs) == 0 && i.B == 0
+	return a && b && (k.C || i.C == 0)
+}
+
+func TestRowInstr(t *testing.T) {
+	row, l := sample.From(6), sample.Kinds()
+	seen := map[api.Instr]bool{}
+	for range 200_000 {
+		i := row.Instr(l)
+		if i.Op < 1 || i.Op > 27 || !lets(l[i.Op-1], i) {
+			t.Fatalf("Instr tells %v, that is none", i)
+		}
+		seen[i] = true
+	}
+	for _, k := range l {
+		count := 0
+		for i := range seen {
+			if i.Op == k.Op {
+				count++
+			}
+		}
+		if want := max(1, len(k.Digit), len(k.As)) * max(1, len(k.Bs)); count < want || k.C && count < 1000 {
+			t.Errorf("of %s Instr tells %d", k.Name, count)
+		}
+	}
+	if i := row.Instr(l[26:]); i != (api.Instr{Op: 27}) {
+		t.Errorf("of yield alone Instr tells %v", i)
+	}
+}
+
+func TestRowNearInstr(t *testing.T) {
+	row, l := sample.From(7), sample.Kinds()
+	are := 0
+	for range 10_000 {
+		if i := row.NearInstr(l); i.Op >= 1 && i.Op <= 27 && lets(l[i.Op-1], i) {
+			are++
+		}
+	}
+	if are < 5000 || are > 6500 {
+		t.Errorf("%d of 10000 are instructions", are)
 	}
 }
