@@ -1,7 +1,6 @@
 package flow_test
 
 import (
-	"fmt"
 	"math"
 	"slices"
 	"testing"
@@ -33,38 +32,14 @@ func zero(c uint32) api.Instr { return api.Instr{Op: api.OpZero, C: c} }
 // program is a short form.
 func program(l ...api.Instr) []api.Instr { return l }
 
-// with answers a program with one of its places taken otherwise.
-func with(l []api.Instr, n int, i api.Instr) []api.Instr {
-	l = slices.Clone(l)
-	l[n] = i
-	return l
-}
-
-// fill answers that many instructions, each as told of its number.
-func fill(count int, at func(n int) api.Instr) []api.Instr {
-	l := make([]api.Instr, count)
-	for n := range l {
-		l[n] = at(n)
-	}
-	return l
-}
-
 // dups answers that many, a yield the last one of them.
 func dups(count int) []api.Instr {
-	return fill(count, func(n int) api.Instr {
+	return sample.Fill(count, func(n int) api.Instr {
 		if n == count-1 {
 			return yield
 		}
 		return dup
 	})
-}
-
-// short answers a list as text, or its beginning and its end.
-func short[T any](l []T) string {
-	if len(l) > 24 {
-		return fmt.Sprint(len(l), l[:12], "..", l[len(l)-12:])
-	}
-	return fmt.Sprint(l)
 }
 
 // asked are numbers that there are and that there are not, of that many instructions.
@@ -80,7 +55,7 @@ func asked(count int) []int {
 func checks(t *testing.T, l []api.Instr, wantN int, want api.Errno) {
 	t.Helper()
 	if n, err := flow.Check(l); n != wantN || err != want {
-		t.Fatalf("Check(%s) tells %d, %d; want %d, %d", short(l), n, err, wantN, want)
+		t.Fatalf("Check(%s) tells %d, %d; want %d, %d", sample.Short(l), n, err, wantN, want)
 	}
 	if want == api.OK {
 		return
@@ -96,7 +71,7 @@ func checks(t *testing.T, l []api.Instr, wantN int, want api.Errno) {
 func behinds(t *testing.T, l []api.Instr, n int, want ...int) {
 	t.Helper()
 	if got := slices.Collect(flow.Behind(l, n)); !slices.Equal(got, want) {
-		t.Fatalf("Behind(%s, %d) goes over %v, want %v", short(l), n, got, want)
+		t.Fatalf("Behind(%s, %d) goes over %v, want %v", sample.Short(l), n, got, want)
 	}
 }
 
@@ -104,7 +79,7 @@ func behinds(t *testing.T, l []api.Instr, n int, want ...int) {
 func comes(t *testing.T, l []api.Instr, want ...bool) {
 	t.Helper()
 	if got := flow.Come(l); !slices.Equal(got, want) {
-		t.Fatalf("Come(%s) tells %s, want %s", short(l), short(got), short(want))
+		t.Fatalf("Come(%s) tells %s, want %s", sample.Short(l), sample.Short(got), sample.Short(want))
 	}
 }
 
@@ -122,7 +97,7 @@ func comesTo(t *testing.T, l []api.Instr, want ...int) {
 func orders(t *testing.T, l []api.Instr, want []int, wantOk bool) {
 	t.Helper()
 	if got, ok := flow.Order(l); !slices.Equal(got, want) || ok != wantOk {
-		t.Fatalf("Order(%s) tells %s, %v; want %s, %v", short(l), short(got), ok, short(want), wantOk)
+		t.Fatalf("Order(%s) tells %s, %v; want %s, %v", sample.Short(l), sample.Short(got), ok, sample.Short(want), wantOk)
 	}
 }
 
@@ -194,18 +169,18 @@ func TestCheckOne(t *testing.T) {
 func TestCheckMany(t *testing.T) {
 	for _, count := range []int{1, 2, 3, 255, 256, 257, maxCode - 1, maxCode} {
 		checks(t, dups(count), 0, api.OK)
-		checks(t, with(dups(count), count-1, dup), count-1, api.ErrEnd)
-		checks(t, with(dups(count), 0, jump(uint32(count))), 0, api.ErrJump)
-		checks(t, with(dups(count), count-1, none), count-1, api.ErrOp)
+		checks(t, sample.With(dups(count), count-1, dup), count-1, api.ErrEnd)
+		checks(t, sample.With(dups(count), 0, jump(uint32(count))), 0, api.ErrJump)
+		checks(t, sample.With(dups(count), count-1, none), count-1, api.ErrOp)
 	}
 	for _, count := range []int{maxCode + 1, maxCode + 2, 2 * maxCode, 65536, 1 << 20} {
 		checks(t, dups(count), 0, api.ErrLong)
-		checks(t, with(dups(count), 0, none), 0, api.ErrLong)
-		checks(t, with(dups(count), 0, jump(top)), 0, api.ErrLong)
-		checks(t, with(dups(count), count/2, none), 0, api.ErrLong)
-		checks(t, with(dups(count), count-1, none), 0, api.ErrLong)
-		checks(t, with(dups(count), count-1, zero(top)), 0, api.ErrLong)
-		checks(t, with(dups(count), count-1, dup), 0, api.ErrLong)
+		checks(t, sample.With(dups(count), 0, none), 0, api.ErrLong)
+		checks(t, sample.With(dups(count), 0, jump(top)), 0, api.ErrLong)
+		checks(t, sample.With(dups(count), count/2, none), 0, api.ErrLong)
+		checks(t, sample.With(dups(count), count-1, none), 0, api.ErrLong)
+		checks(t, sample.With(dups(count), count-1, zero(top)), 0, api.ErrLong)
+		checks(t, sample.With(dups(count), count-1, dup), 0, api.ErrLong)
 		checks(t, make([]api.Instr, count), 0, api.ErrLong)
 	}
 }
@@ -215,21 +190,21 @@ func TestCheckOp(t *testing.T) {
 	for _, count := range []int{1, 2, 3, 9, maxCode} {
 		for _, n := range []int{0, count / 2, count - 1} {
 			for _, i := range []api.Instr{none, {}, {Op: 255}, {Op: api.OpJump, B: 1}, {Op: api.OpZero, A: 1, C: top}, {Op: api.OpLoad, A: 3}, {Op: api.OpYield, C: 1}} {
-				l := with(dups(count), n, i)
+				l := sample.With(dups(count), n, i)
 				checks(t, l, n, api.ErrOp)
 				for _, at := range []int{0, count / 2, count - 1} {
 					if at == n {
 						continue
 					}
-					checks(t, with(l, at, jump(uint32(count))), n, api.ErrOp)
-					checks(t, with(l, at, zero(top)), n, api.ErrOp)
-					checks(t, with(l, at, none), min(n, at), api.ErrOp)
+					checks(t, sample.With(l, at, jump(uint32(count))), n, api.ErrOp)
+					checks(t, sample.With(l, at, zero(top)), n, api.ErrOp)
+					checks(t, sample.With(l, at, none), min(n, at), api.ErrOp)
 				}
 				if n < count-1 {
-					checks(t, with(l, count-1, dup), n, api.ErrOp)
+					checks(t, sample.With(l, count-1, dup), n, api.ErrOp)
 				}
 				if n > 0 && n < count-1 {
-					checks(t, with(with(l, 0, jump(top)), count-1, zero(top)), n, api.ErrOp)
+					checks(t, sample.With(sample.With(l, 0, jump(top)), count-1, zero(top)), n, api.ErrOp)
 				}
 			}
 		}
@@ -246,17 +221,17 @@ func TestCheckJump(t *testing.T) {
 					want, wantN = api.ErrEnd, n
 				}
 				for _, c := range []uint32{0, uint32(n), uint32(count / 2), uint32(count - 1)} {
-					checks(t, with(dups(count), n, to(c)), wantN, want)
+					checks(t, sample.With(dups(count), n, to(c)), wantN, want)
 				}
 				for _, c := range []uint32{uint32(count), uint32(count + 1), 16384, 16385, 65536 * 3, 1 << 31, top - 1, top} {
-					l := with(dups(count), n, to(c))
+					l := sample.With(dups(count), n, to(c))
 					checks(t, l, n, api.ErrJump)
 					if n < count-1 {
-						checks(t, with(l, count-1, dup), n, api.ErrJump)
-						checks(t, with(l, count-1, zero(0)), n, api.ErrJump)
+						checks(t, sample.With(l, count-1, dup), n, api.ErrJump)
+						checks(t, sample.With(l, count-1, zero(0)), n, api.ErrJump)
 					}
-					checks(t, with(l, 0, zero(c)), 0, api.ErrJump)
-					checks(t, with(l, count-1, jump(c)), n, api.ErrJump)
+					checks(t, sample.With(l, 0, zero(c)), 0, api.ErrJump)
+					checks(t, sample.With(l, count-1, jump(c)), n, api.ErrJump)
 				}
 			}
 		}
@@ -268,9 +243,9 @@ func TestCheckOthers(t *testing.T) {
 	for _, c := range []uint32{0, 1, 3, 4, maxCode, top} {
 		for _, i := range []api.Instr{{Op: api.OpPush, C: c}, {Op: api.OpLoad, A: 1, C: c}, {Op: api.OpLoad, A: 4, C: c}, {Op: api.OpStore, A: 2, C: c}} {
 			for n := range 3 {
-				checks(t, with(dups(4), n, i), 0, api.OK)
+				checks(t, sample.With(dups(4), n, i), 0, api.OK)
 			}
-			checks(t, with(dups(4), 3, i), 3, api.ErrEnd)
+			checks(t, sample.With(dups(4), 3, i), 3, api.ErrEnd)
 		}
 	}
 }
@@ -329,7 +304,7 @@ func TestBehindEachOp(t *testing.T) {
 				case api.OpYield:
 					want = nil
 				}
-				behinds(t, with(dups(6), n, i), n, want...)
+				behinds(t, sample.With(dups(6), n, i), n, want...)
 			}
 		}
 	}
@@ -343,8 +318,8 @@ func TestBehindJumps(t *testing.T) {
 				if c < 0 || c >= count {
 					continue
 				}
-				behinds(t, with(dups(count), n, jump(uint32(c))), n, c)
-				l := with(dups(count), n, zero(uint32(c)))
+				behinds(t, sample.With(dups(count), n, jump(uint32(c))), n, c)
+				l := sample.With(dups(count), n, zero(uint32(c)))
 				if c == n+1 {
 					behinds(t, l, n, c)
 				} else {
@@ -353,7 +328,7 @@ func TestBehindJumps(t *testing.T) {
 			}
 		}
 		for _, c := range []int{0, 1, count / 2, count - 2, count - 1} {
-			behinds(t, with(dups(count), count-1, jump(uint32(c))), count-1, c)
+			behinds(t, sample.With(dups(count), count-1, jump(uint32(c))), count-1, c)
 		}
 		behinds(t, dups(count), count-1)
 	}
@@ -367,7 +342,7 @@ func TestBehindNumbers(t *testing.T) {
 		for _, n := range append(asked(len(l)), sample.Edges()...) {
 			behinds(t, l, n, behindOf(l, n)...)
 			if seq := flow.Behind(l, n); seq == nil {
-				t.Fatalf("Behind(%s, %d) is nil", short(l), n)
+				t.Fatalf("Behind(%s, %d) is nil", sample.Short(l), n)
 			}
 		}
 	}
@@ -385,7 +360,7 @@ func TestBehindError(t *testing.T) {
 		for _, n := range append(asked(len(l)), sample.Edges()...) {
 			behinds(t, l, n)
 			if seq := flow.Behind(l, n); seq == nil {
-				t.Fatalf("Behind(%s, %d) is nil", short(l), n)
+				t.Fatalf("Behind(%s, %d) is nil", sample.Short(l), n)
 			}
 		}
 	}
@@ -424,7 +399,7 @@ func TestComeOrderError(t *testing.T) {
 		nil, {}, {dup}, {zero(0)}, {jump(1)}, {none}, {yield, none}, {none, yield}, {yield, dup, jump(3)}, {yield, zero(top), yield}, {yield, dup}, {jump(0), zero(0)}, make([]api.Instr, 9), dups(maxCode + 1),
 	} {
 		if _, err := flow.Check(l); err == api.OK {
-			t.Fatalf("Check(%s) tells no error", short(l))
+			t.Fatalf("Check(%s) tells no error", sample.Short(l))
 		}
 		comes(t, l)
 		orders(t, l, nil, false)
@@ -456,11 +431,11 @@ func TestLoops(t *testing.T) {
 	loops(t, program(jump(2), jump(0), jump(1)), 0, 1, 2)
 	loops(t, program(jump(3), yield, yield, zero(4), jump(3)), 0, 3, 4)
 	for _, count := range []int{3, 300, maxCode} {
-		all := numbers(count)
-		loops(t, with(dups(count), count-1, jump(0)), all...)
-		loops(t, with(dups(count), count-1, jump(uint32(count-1))), all...)
-		loops(t, with(dups(count), count-2, zero(0)), all...)
-		loops(t, with(dups(count), 0, zero(0)), all...)
+		all := sample.Numbers(count)
+		loops(t, sample.With(dups(count), count-1, jump(0)), all...)
+		loops(t, sample.With(dups(count), count-1, jump(uint32(count-1))), all...)
+		loops(t, sample.With(dups(count), count-2, zero(0)), all...)
+		loops(t, sample.With(dups(count), 0, zero(0)), all...)
 	}
 	goes(t, program(yield, jump(1)), 0)
 	goes(t, program(yield, zero(1), yield), 0)
@@ -510,10 +485,10 @@ func soon(t *testing.T, name string, l []api.Instr, come []bool, order []int) {
 // P11.3: the most instructions in a row, with as many OpZero as there can be, however they go.
 func TestMost(t *testing.T) {
 	const last, half = maxCode - 1, maxCode / 2
-	all, rising := slices.Repeat([]bool{true}, maxCode), numbers(maxCode)
+	all, rising := slices.Repeat([]bool{true}, maxCode), sample.Numbers(maxCode)
 	row := sample.From(4)
 	ends := func(at func(n int) uint32) []api.Instr {
-		return with(fill(maxCode, func(n int) api.Instr { return zero(min(at(n), last)) }), last, yield)
+		return sample.With(sample.Fill(maxCode, func(n int) api.Instr { return zero(min(at(n), last)) }), last, yield)
 	}
 	soon(t, "a row", dups(maxCode), all, rising)
 	soon(t, "all to the next", ends(func(n int) uint32 { return uint32(n + 1) }), all, rising)
@@ -525,22 +500,22 @@ func TestMost(t *testing.T) {
 	soon(t, "all to themselves", ends(func(n int) uint32 { return uint32(n) }), all, nil)
 	soon(t, "all to the first", ends(func(int) uint32 { return 0 }), all, nil)
 	soon(t, "whatever there is", ends(func(int) uint32 { return uint32(row.Below(maxCode)) }), all, nil)
-	soon(t, "a ring at the end", with(ends(func(n int) uint32 { return uint32(n + 2) }), last, jump(last)), all, nil)
-	soon(t, "a ring of all", with(ends(func(n int) uint32 { return uint32(n + 2) }), last, jump(0)), all, nil)
-	backward := with(with(fill(maxCode, func(n int) api.Instr { return jump(uint32(max(n-1, 0))) }), 0, jump(last)), 1, yield)
+	soon(t, "a ring at the end", sample.With(ends(func(n int) uint32 { return uint32(n + 2) }), last, jump(last)), all, nil)
+	soon(t, "a ring of all", sample.With(ends(func(n int) uint32 { return uint32(n + 2) }), last, jump(0)), all, nil)
+	backward := sample.With(sample.With(sample.Fill(maxCode, func(n int) api.Instr { return jump(uint32(max(n-1, 0))) }), 0, jump(last)), 1, yield)
 	falling := append([]int{0}, rising[1:]...)
 	slices.Reverse(falling[1:])
 	soon(t, "one by one from the end", backward, all, falling)
 	only := make([]bool, maxCode)
 	only[0] = true
-	soon(t, "the first alone", with(ends(func(n int) uint32 { return uint32(n) }), 0, yield), only, []int{0})
+	soon(t, "the first alone", sample.With(ends(func(n int) uint32 { return uint32(n) }), 0, yield), only, []int{0})
 }
 
 // P11.3: the order of the most instructions, where few of those that may be next stand in the order of their numbers.
 func TestMostOutOfOrder(t *testing.T) {
 	// The near half goes to the far half, which goes back one by one to the yields between.
 	const half = maxCode / 2
-	l := fill(maxCode, func(n int) api.Instr {
+	l := sample.Fill(maxCode, func(n int) api.Instr {
 		switch {
 		case n%2 == 0 && n < half:
 			return zero(uint32(maxCode - 1 - n))
@@ -565,7 +540,7 @@ func inOrder(t *testing.T, l []api.Instr, come []bool, order []int) {
 	t.Helper()
 	ahead := make([]int, len(l))
 	for n, is := range come {
-		for _, next := range linkOf(l, n) {
+		for _, next := range sample.Behind(l, n) {
 			if is {
 				ahead[next]++
 			}
@@ -579,15 +554,15 @@ func inOrder(t *testing.T, l []api.Instr, come []bool, order []int) {
 			least++
 		}
 		if n != least {
-			t.Fatalf("Order(%s) has %d at place %d, not %d", short(l), n, at, least)
+			t.Fatalf("Order(%s) has %d at place %d, not %d", sample.Short(l), n, at, least)
 		}
 		open[n] = false
-		for _, next := range linkOf(l, n) {
+		for _, next := range sample.Behind(l, n) {
 			ahead[next]--
 		}
 	}
 	if slices.Contains(open, true) {
-		t.Fatalf("Order(%s) has %d of those that are come to, and not %d", short(l), len(order), slices.Index(open, true))
+		t.Fatalf("Order(%s) has %d of those that are come to, and not %d", sample.Short(l), len(order), slices.Index(open, true))
 	}
 }
 
@@ -611,36 +586,26 @@ func TestSmallByTheWords(t *testing.T) {
 		for c := range uint32(count + 1) {
 			kinds = append(kinds, jump(c), zero(c))
 		}
-		l := make([]api.Instr, count)
-		var fillFrom func(n int)
-		fillFrom = func(n int) {
-			if n == count {
-				byTheWords(t, l)
-				return
-			}
-			for _, i := range kinds {
-				l[n] = i
-				fillFrom(n + 1)
-			}
+		for l := range sample.All(count, kinds) {
+			byTheWords(t, l)
 		}
-		fillFrom(0)
 	}
 }
 
 // P11.1, P11.2, P11.3: random programs, well and with something amiss.
 func TestByTheWords(t *testing.T) {
-	f := from(5)
+	row := sample.From(5)
 	errs := map[api.Errno]int{}
 	loops, ends, some := 0, 0, 0
 	for range 3000 {
-		count := 1 + f.Below(30)
-		l := f.amiss(count)
+		count := 1 + row.Below(30)
+		l := row.Amiss(count)
 		byTheWords(t, l)
 		_, err := flow.Check(l)
 		errs[err]++
-		l = f.program(count, f.Below(5))
+		l = row.Program(count, row.Below(5))
 		if n, err := flow.Check(l); err != api.OK {
-			t.Fatalf("Check(%s) tells %d, %d", short(l), n, err)
+			t.Fatalf("Check(%s) tells %d, %d", sample.Short(l), n, err)
 		}
 		byTheWords(t, l)
 		if _, ok := flow.Order(l); ok {
@@ -662,17 +627,17 @@ func TestByTheWords(t *testing.T) {
 	}
 }
 
-// way answers a way from instruction 0, of so many at most, and whether it has ended.
-func (f feed) way(l []api.Instr, most int) ([]int, bool) {
+// wayOf answers a way from instruction 0, of so many at most, and whether it has ended.
+func wayOf(row *sample.Row, l []api.Instr, most int) ([]int, bool) {
 	way := []int{0}
 	for len(way) < most {
 		behind := slices.Collect(flow.Behind(l, way[len(way)-1]))
 		if len(behind) == 0 {
 			return way, true
 		}
-		way = append(way, behind[f.Below(len(behind))])
+		way = append(way, behind[row.Below(len(behind))])
 	}
-	return way, len(linkOf(l, way[len(way)-1])) == 0
+	return way, len(sample.Behind(l, way[len(way)-1])) == 0
 }
 
 // wayTo answers a way from instruction 0 to n; none, if there is none.
@@ -698,26 +663,26 @@ func wayTo(l []api.Instr, n int) []int {
 
 // P11.4: whatever way is gone, each instruction of it is come to; each that is come to lies on some way, and no other one does.
 func TestWays(t *testing.T) {
-	f := from(6)
+	row := sample.From(6)
 	for range 2000 {
-		l := f.program(1+f.Below(30), f.Below(9))
+		l := row.Program(1+row.Below(30), row.Below(9))
 		come := flow.Come(l)
 		for range 10 {
-			way, _ := f.way(l, 100)
+			way, _ := wayOf(row, l, 100)
 			for _, n := range way {
 				if !come[n] {
-					t.Fatalf("%s: the way %v goes over %d, that is not come to", short(l), way, n)
+					t.Fatalf("%s: the way %v goes over %d, that is not come to", sample.Short(l), way, n)
 				}
 			}
 		}
 		for n, is := range come {
 			way := wayTo(l, n)
 			if (way != nil) != is {
-				t.Fatalf("%s: Come tells %v of %d; the way there is %v", short(l), is, n, way)
+				t.Fatalf("%s: Come tells %v of %d; the way there is %v", sample.Short(l), is, n, way)
 			}
 			for k := 1; k < len(way); k++ {
-				if !slices.Contains(linkOf(l, way[k-1]), way[k]) {
-					t.Fatalf("%s: on the way %v one comes behind one that it does not", short(l), way)
+				if !slices.Contains(sample.Behind(l, way[k-1]), way[k]) {
+					t.Fatalf("%s: on the way %v one comes behind one that it does not", sample.Short(l), way)
 				}
 			}
 		}
@@ -726,27 +691,27 @@ func TestWays(t *testing.T) {
 
 // P11.4: without a loop each way ends, has at most as many instructions as Order, and in the same order; with one there is a way that goes round.
 func TestWaysEnd(t *testing.T) {
-	f := from(7)
+	row := sample.From(7)
 	for range 2000 {
-		l := f.program(1+f.Below(40), f.Below(3))
+		l := row.Program(1+row.Below(40), row.Below(3))
 		order, ok := flow.Order(l)
 		if !ok {
 			if _, is := loopOf(l); !is {
-				t.Fatalf("%s: Order tells none, and there is no loop", short(l))
+				t.Fatalf("%s: Order tells none, and there is no loop", sample.Short(l))
 			}
 			continue
 		}
 		inOrder(t, l, flow.Come(l), order)
 		for range 20 {
-			way, ended := f.way(l, len(order))
+			way, ended := wayOf(row, l, len(order))
 			if !ended {
-				t.Fatalf("%s: the way %v goes on behind as many as the order %v has", short(l), way, order)
+				t.Fatalf("%s: the way %v goes on behind as many as the order %v has", sample.Short(l), way, order)
 			}
 			at := -1
 			for _, n := range way {
 				place := slices.Index(order, n)
 				if place <= at {
-					t.Fatalf("%s: the way %v is not in the order %v", short(l), way, order)
+					t.Fatalf("%s: the way %v is not in the order %v", sample.Short(l), way, order)
 				}
 				at = place
 			}
@@ -756,14 +721,14 @@ func TestWaysEnd(t *testing.T) {
 
 // R3: what is handed in stays as it is; what becomes of it, and of an answer, later makes no difference to other answers.
 func TestApart(t *testing.T) {
-	f := from(8)
+	row := sample.From(8)
 	for range 500 {
-		l := f.program(1+f.Below(20), f.Below(3))
-		if f.Below(3) == 0 {
-			l = f.amiss(1 + f.Below(20))
+		l := row.Program(1+row.Below(20), row.Below(3))
+		if row.Below(3) == 0 {
+			l = row.Amiss(1 + row.Below(20))
 		}
 		was := slices.Clone(l)
-		n := f.Below(len(l))
+		n := row.Below(len(l))
 		seq, come := flow.Behind(l, n), flow.Come(l)
 		order, ok := flow.Order(l)
 		flow.Check(l)
@@ -771,14 +736,14 @@ func TestApart(t *testing.T) {
 			break
 		}
 		if !slices.Equal(l, was) {
-			t.Fatalf("%s has become %s", short(was), short(l))
+			t.Fatalf("%s has become %s", sample.Short(was), sample.Short(l))
 		}
 		comeWas, orderWas := slices.Clone(come), slices.Clone(order)
 		for k := range l {
 			l[k] = none
 		}
 		if got := slices.Collect(seq); !slices.Equal(got, behindOf(was, n)) || !slices.Equal(come, comeWas) || !slices.Equal(order, orderWas) {
-			t.Fatalf("what is told of %s becomes something else with it", short(was))
+			t.Fatalf("what is told of %s becomes something else with it", sample.Short(was))
 		}
 		copy(l, was)
 		for k := range come {
@@ -788,7 +753,7 @@ func TestApart(t *testing.T) {
 			order[k] = -1
 		}
 		if got := slices.Collect(seq); !slices.Equal(got, behindOf(l, n)) {
-			t.Fatalf("Behind(%s, %d) goes over %v when it is gone over again", short(l), n, got)
+			t.Fatalf("Behind(%s, %d) goes over %v when it is gone over again", sample.Short(l), n, got)
 		}
 		comes(t, l, comeWas...)
 		orders(t, l, orderWas, ok)

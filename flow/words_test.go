@@ -37,21 +37,7 @@ func behindOf(l []api.Instr, n int) []int {
 	if _, err := checkOf(l); err != api.OK || n < 0 || n >= len(l) {
 		return nil
 	}
-	return linkOf(l, n)
-}
-
-// linkOf answers what comes behind an instruction of a program that is well.
-func linkOf(l []api.Instr, n int) []int {
-	next, named := n+1, int(l[n].C)
-	switch {
-	case l[n].Op == 27:
-		return nil
-	case l[n].Op == 19:
-		return []int{named}
-	case l[n].Op == 20 && named != next:
-		return []int{next, named}
-	}
-	return []int{next}
+	return sample.Behind(l, n)
 }
 
 // linksOf answers behindOf of each number.
@@ -112,8 +98,8 @@ func orderOf(l []api.Instr) ([]int, bool) {
 	links, waits := linksOf(l), comeOf(l)
 	var order []int
 	for {
-		n := slices.IndexFunc(numbers(len(l)), func(n int) bool {
-			return waits[n] && !slices.ContainsFunc(numbers(len(l)), func(ahead int) bool { return waits[ahead] && slices.Contains(links[ahead], n) })
+		n := slices.IndexFunc(sample.Numbers(len(l)), func(n int) bool {
+			return waits[n] && !slices.ContainsFunc(sample.Numbers(len(l)), func(ahead int) bool { return waits[ahead] && slices.Contains(links[ahead], n) })
 		})
 		if n < 0 {
 			return order, true
@@ -121,71 +107,4 @@ func orderOf(l []api.Instr) ([]int, bool) {
 		order = append(order, n)
 		waits[n] = false
 	}
-}
-
-// numbers answers the numbers below count.
-func numbers(count int) []int {
-	l := make([]int, count)
-	for n := range l {
-		l[n] = n
-	}
-	return l
-}
-
-// feed makes up programs, alike in each run.
-type feed struct {
-	*sample.Row
-	kinds []sample.Kind
-}
-
-// from answers a feed; unlike seeds have unlike ones.
-func from(seed uint64) feed { return feed{sample.From(seed), sample.Kinds()} }
-
-// instr answers an instruction: about half of them may go on elsewhere.
-func (f feed) instr() api.Instr {
-	if f.Below(2) == 0 {
-		return f.Instr(f.kinds[18:20])
-	}
-	return f.Instr(f.kinds)
-}
-
-// program answers a program that is well; of back times in 8 it goes back.
-func (f feed) program(count, back int) []api.Instr {
-	l := make([]api.Instr, count)
-	for n := range l {
-		l[n] = f.instr()
-		if l[n].Op != api.OpJump && l[n].Op != api.OpZero {
-			continue
-		}
-		l[n].C = uint32(f.Below(count))
-		if n+1 < count && f.Below(8) >= back {
-			l[n].C = uint32(n + 1 + f.Below(min(count-n-1, 1+f.Below(count))))
-		}
-	}
-	if last := &l[count-1]; last.Op != api.OpJump || f.Below(8) >= back {
-		*last = yield
-	}
-	return l
-}
-
-// amiss answers a program with some things turned, most often one.
-func (f feed) amiss(count int) []api.Instr {
-	l := f.program(count, f.Below(9))
-	for range 1 + f.Below(2)*f.Below(3) {
-		n := f.Below(count)
-		if f.Below(4) == 0 {
-			n = count - 1
-		}
-		switch f.Below(4) {
-		case 0:
-			l[n] = f.NearInstr(f.kinds)
-		case 1:
-			l[n] = f.Instr(f.kinds)
-		case 2:
-			l[n] = api.Instr{Op: api.OpJump, C: uint32(f.Below(count + 2))}
-		case 3:
-			l[n] = api.Instr{Op: api.OpZero, C: uint32(f.Below(count + 2))}
-		}
-	}
-	return l
 }

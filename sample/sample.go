@@ -55,10 +55,13 @@ func InSet(set uint32, part int) bool {
 }
 
 // Row is numbers without a plain rule, alike in each run.
-type Row struct{ state uint64 }
+type Row struct {
+	state uint64
+	kinds []Kind // filled when they are first asked
+}
 
 // From answers a row; unlike seeds have unlike ones.
-func From(seed uint64) *Row { return &Row{seed} }
+func From(seed uint64) *Row { return &Row{state: seed} }
 
 // Next answers the row's next number.
 func (r *Row) Next() uint64 {

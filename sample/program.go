@@ -1,0 +1,142 @@
+package sample
+
+import (
+	"fmt"
+	"iter"
+	"strings"
+
+	"tappet/api"
+	"tappet/asm"
+)
+
+// Code answers a program that is written as the chapters' tables have it: texts of instructions, a comma between. It panics if there is none.
+func Code(text string) []api.Instr {
+	lines, n, err := asm.Parse(strings.ReplaceAll(text, ", ", "\n"))
+	if err != api.OK {
+		panic(fmt.Sprintf("line %d of %q: %d", n, text, err))
+	}
+	l, n, err := asm.Assemble(lines)
+	if err != api.OK {
+		panic(fmt.Sprintf("instruction %d of %q: %d", n, text, err))
+	}
+	return l
+}
+
+// Fill answers that many instructions, each as told of its number.
+func Fill(count int, at func(n int) api.Instr) []api.Instr {
+	l := make([]api.Instr, count)
+	for n := range l {
+		l[n] = at(n)
+	}
+	return l
+}
+
+// All goes over all programs of that many of these instructions, in one list that is written over each time.
+func All(count int, of []api.Instr) iter.Seq[[]api.Instr] {
+	l := make([]api.Instr, count)
+	return func(yield func([]api.Instr) bool) { fillFrom(l, 0, of, yield) }
+}
+
+// fillFrom goes over all that are alike below n; it tells whether to go on.
+func fillFrom(l []api.Instr, n int, of []api.Instr, yield func([]api.Instr) bool) bool {
+	if n == len(l) {
+		return yield(l)
+	}
+	for _, i := range of {
+		l[n] = i
+		if !fillFrom(l, n+1, of, yield) {
+			return false
+		}
+	}
+	return true
+}
+
+// With answers a program with one of its places taken otherwise.
+func With(l []api.Instr, n int, i api.Instr) []api.Instr {
+	l = append([]api.Instr(nil), l...)
+	l[n] = i
+	return l
+}
+
+// Short answers a list as text, or its beginning and its end.
+func Short[T any](l []T) string {
+	if len(l) > 24 {
+		return fmt.Sprint(len(l), l[:12], "..", l[len(l)-12:])
+	}
+	return fmt.Sprint(l)
+}
+
+// Numbers answers the numbers below count.
+func Numbers(count int) []int {
+	l := make([]int, count)
+	for n := range l {
+		l[n] = n
+	}
+	return l
+}
+
+// Behind answers by the words what comes behind an instruction of a program that is well.
+func Behind(l []api.Instr, n int) []int {
+	next, named := n+1, int(l[n].C)
+	switch {
+	case l[n].Op == 27:
+		return nil
+	case l[n].Op == 19:
+		return []int{named}
+	case l[n].Op == 20 && named != next:
+		return []int{next, named}
+	}
+	return []int{next}
+}
+
+// OrJump answers the next instruction: about half of them may go on elsewhere.
+func (r *Row) OrJump() api.Instr {
+	if r.kinds == nil {
+		r.kinds = Kinds()
+	}
+	if r.Below(2) == 0 {
+		return r.Instr(r.kinds[18:20])
+	}
+	return r.Instr(r.kinds)
+}
+
+// Program answers a program of which flow.Check tells no error; of back times in 8 it goes back.
+func (r *Row) Program(count, back int) []api.Instr {
+	l := make([]api.Instr, count)
+	for n := range l {
+		l[n] = r.OrJump()
+		if l[n].Op != api.OpJump && l[n].Op != api.OpZero {
+			continue
+		}
+		l[n].C = uint32(r.Below(count))
+		if n+1 < count && r.Below(8) >= back {
+			l[n].C = uint32(n + 1 + r.Below(min(count-n-1, 1+r.Below(count))))
+		}
+	}
+	if last := &l[count-1]; last.Op != api.OpJump || r.Below(8) >= back {
+		*last = api.Instr{Op: api.OpYield}
+	}
+	return l
+}
+
+// Amiss answers a program with some things turned, most often one.
+func (r *Row) Amiss(count int) []api.Instr {
+	l := r.Program(count, r.Below(9))
+	for range 1 + r.Below(2)*r.Below(3) {
+		n := r.Below(count)
+		if r.Below(4) == 0 {
+			n = count - 1
+		}
+		switch r.Below(4) {
+		case 0:
+			l[n] = r.NearInstr(Kinds())
+		case 1:
+			l[n] = r.Instr(Kinds())
+		case 2:
+			l[n] = api.Instr{Op: api.OpJump, C: uint32(r.Below(count + 2))}
+		case 3:
+			l[n] = api.Instr{Op: api.OpZero, C: uint32(r.Below(count + 2))}
+		}
+	}
+	return l
+}
