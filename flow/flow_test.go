@@ -696,7 +696,7 @@ func TestWaysEnd(t *testing.T) {
 		l := row.Program(1+row.Below(40), row.Below(3))
 		order, ok := flow.Order(l)
 		if !ok {
-			if _, is := loopOf(l); !is {
+			if _, is := sample.Loop(l); !is {
 				t.Fatalf("%s: Order tells none, and there is no loop", sample.Short(l))
 			}
 			continue

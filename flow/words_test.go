@@ -40,51 +40,12 @@ func behindOf(l []api.Instr, n int) []int {
 	return sample.Behind(l, n)
 }
 
-// linksOf answers behindOf of each number.
-func linksOf(l []api.Instr) [][]int {
-	links := make([][]int, len(l))
-	for n := range l {
-		links[n] = behindOf(l, n)
-	}
-	return links
-}
-
-// reach answers which numbers lie behind those of the list, at whatever distance: as long as one is found, all are looked at again.
-func reach(links [][]int, from []int) []bool {
-	found := make([]bool, len(links))
-	for _, n := range from {
-		found[n] = true
-	}
-	for again := true; again; {
-		again = false
-		for n, is := range found {
-			for _, next := range links[n] {
-				if is && !found[next] {
-					found[next], again = true, true
-				}
-			}
-		}
-	}
-	return found
-}
-
 // comeOf is Come by the words.
 func comeOf(l []api.Instr) []bool {
 	if _, err := checkOf(l); err != api.OK {
 		return nil
 	}
-	return reach(linksOf(l), []int{0})
-}
-
-// loopOf answers the least number that is come to and that lies behind itself; false, if there is none.
-func loopOf(l []api.Instr) (int, bool) {
-	links := linksOf(l)
-	for n, is := range comeOf(l) {
-		if is && reach(links, links[n])[n] {
-			return n, true
-		}
-	}
-	return 0, false
+	return sample.Reach(sample.Links(l), []int{0})
 }
 
 // orderOf is Order by the words: over and over, the least one that is not in it yet and that comes behind none which is not.
@@ -92,10 +53,10 @@ func orderOf(l []api.Instr) ([]int, bool) {
 	if _, err := checkOf(l); err != api.OK {
 		return nil, false
 	}
-	if _, is := loopOf(l); is {
+	if _, is := sample.Loop(l); is {
 		return nil, false
 	}
-	links, waits := linksOf(l), comeOf(l)
+	links, waits := sample.Links(l), comeOf(l)
 	var order []int
 	for {
 		n := slices.IndexFunc(sample.Numbers(len(l)), func(n int) bool {

@@ -423,10 +423,7 @@ func TestByTheWords(t *testing.T) {
 		}
 		turned := l
 		for range 1 + row.Below(3) {
-			i := row.OrJump()
-			if isa.Jumps(i.Op) {
-				i.C = uint32(row.Below(count))
-			}
+			i := row.Within(count)
 			turned = sample.With(turned, row.Below(count), i)
 		}
 		seen[byTheWords(t, turned, most)]++

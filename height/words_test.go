@@ -74,10 +74,7 @@ func level(row *sample.Row, count, most int) []api.Instr {
 			continue
 		}
 		// Nothing goes back to what is not told so far: it is not come to.
-		l[n] = row.OrJump()
-		if isa.Jumps(l[n].Op) {
-			l[n].C = uint32(row.Below(count))
-		}
+		l[n] = row.Within(count)
 	}
 	if last := &l[count-1]; last.Op != api.OpJump {
 		*last = api.Instr{Op: api.OpYield}

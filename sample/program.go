@@ -89,6 +89,45 @@ func Behind(l []api.Instr, n int) []int {
 	return []int{next}
 }
 
+// Links answers Behind of each instruction.
+func Links(l []api.Instr) [][]int {
+	links := make([][]int, len(l))
+	for n := range l {
+		links[n] = Behind(l, n)
+	}
+	return links
+}
+
+// Reach tells which numbers lie behind those of the list, at whatever distance, or are among them: as long as one is found, all are looked at again.
+func Reach(links [][]int, from []int) []bool {
+	found := make([]bool, len(links))
+	for _, n := range from {
+		found[n] = true
+	}
+	for again := true; again; {
+		again = false
+		for n, is := range found {
+			for _, next := range links[n] {
+				if is && !found[next] {
+					found[next], again = true, true
+				}
+			}
+		}
+	}
+	return found
+}
+
+// Loop answers by the words, of a program that is well, the least number that is come to and that lies behind itself; false, if there is none.
+func Loop(l []api.Instr) (int, bool) {
+	links := Links(l)
+	for n, is := range Reach(links, []int{0}) {
+		if is && Reach(links, links[n])[n] {
+			return n, true
+		}
+	}
+	return 0, false
+}
+
 // OrJump answers the next instruction: about half of them may go on elsewhere.
 func (r *Row) OrJump() api.Instr {
 	if r.kinds == nil {
@@ -100,16 +139,22 @@ func (r *Row) OrJump() api.Instr {
 	return r.Instr(r.kinds)
 }
 
+// Within is as OrJump, but what may go on elsewhere goes to a number below count.
+func (r *Row) Within(count int) api.Instr {
+	i := r.OrJump()
+	if i.Op == api.OpJump || i.Op == api.OpZero {
+		i.C = uint32(r.Below(count))
+	}
+	return i
+}
+
 // Program answers a program of which flow.Check tells no error; of back times in 8 it goes back.
 func (r *Row) Program(count, back int) []api.Instr {
 	l := make([]api.Instr, count)
 	for n := range l {
-		l[n] = r.OrJump()
-		if l[n].Op != api.OpJump && l[n].Op != api.OpZero {
-			continue
-		}
-		l[n].C = uint32(r.Below(count))
-		if n+1 < count && r.Below(8) >= back {
+		l[n] = r.Within(count)
+		jumps := l[n].Op == api.OpJump || l[n].Op == api.OpZero
+		if jumps && n+1 < count && r.Below(8) >= back {
 			l[n].C = uint32(n + 1 + r.Below(min(count-n-1, 1+r.Below(count))))
 		}
 	}

@@ -88,6 +88,53 @@ func TestBehind(t *testing.T) {
 	}
 }
 
+func TestReach(t *testing.T) {
+	links := sample.Links(sample.Code("zero 3, jump 4, yield, jump 1, jump 4"))
+	for n, want := range [][]int{{1, 3}, {4}, nil, {1}, {4}} {
+		if !slices.Equal(links[n], want) {
+			t.Errorf("Links has %v at %d, want %v", links[n], n, want)
+		}
+	}
+	for n, want := range [][]bool{{true, true, false, true, true}, {false, true, false, false, true}, {false, false, true, false, false}, {false, true, false, true, true}, {false, false, false, false, true}} {
+		if got := sample.Reach(links, []int{n}); !slices.Equal(got, want) {
+			t.Errorf("Reach from %d answers %v", n, got)
+		}
+	}
+	if got := sample.Reach(links, []int{2, 4}); !slices.Equal(got, []bool{false, false, true, false, true}) {
+		t.Errorf("Reach from 2 and 4 answers %v", got)
+	}
+	if got := sample.Reach(links, nil); slices.Contains(got, true) {
+		t.Errorf("Reach from none answers %v", got)
+	}
+}
+
+func TestLoop(t *testing.T) {
+	for text, want := range map[string]int{"yield": -1, "jump 0": 0, "dup, zero 1, yield": 1, "zero 2, jump 3, jump 4, jump 3, jump 2": 2, "yield, jump 1": -1, "jump 2, jump 3, jump 1, yield": -1, "jump 3, jump 2, jump 1, jump 2": 1} {
+		n, ok := sample.Loop(sample.Code(text))
+		if ok != (want >= 0) || n != max(want, 0) {
+			t.Errorf("Loop of %s answers %d, %v; want %d", text, n, ok, want)
+		}
+	}
+}
+
+func TestRowWithin(t *testing.T) {
+	row, far := sample.From(10), 0
+	for count := range 40 {
+		for range 100 {
+			i := row.Within(count + 1)
+			if !isa.May(i) || isa.Jumps(i.Op) && int(i.C) > count {
+				t.Fatalf("Within(%d) answers %v", count+1, i)
+			}
+			if isa.Jumps(i.Op) && int(i.C) == count {
+				far++
+			}
+		}
+	}
+	if far < 100 {
+		t.Errorf("%d go to the greatest number", far)
+	}
+}
+
 func TestRowProgram(t *testing.T) {
 	row := sample.From(8)
 	back, jumps, ops := 0, 0, map[uint8]bool{}
