@@ -1,8 +1,8 @@
 package sample
 
 import (
-	"fmt"
 	"iter"
+	"strconv"
 	"strings"
 
 	"tappet/api"
@@ -11,14 +11,15 @@ import (
 
 // Code answers a program that is written as the chapters' tables have it: texts of instructions, a comma between. It panics if there is none.
 func Code(text string) []api.Instr {
+	refuse := func(what string, n int, err api.Errno) {
+		if err != api.OK {
+			panic(what + " " + strconv.Itoa(n) + " of " + strconv.Quote(text) + ": " + strconv.Itoa(int(err)))
+		}
+	}
 	lines, n, err := asm.Parse(strings.ReplaceAll(text, ", ", "\n"))
-	if err != api.OK {
-		panic(fmt.Sprintf("line %d of %q: %d", n, text, err))
-	}
+	refuse("line", n, err)
 	l, n, err := asm.Assemble(lines)
-	if err != api.OK {
-		panic(fmt.Sprintf("instruction %d of %q: %d", n, text, err))
-	}
+	refuse("instruction", n, err)
 	return l
 }
 
@@ -56,14 +57,6 @@ func With(l []api.Instr, n int, i api.Instr) []api.Instr {
 	l = append([]api.Instr(nil), l...)
 	l[n] = i
 	return l
-}
-
-// Short answers a list as text, or its beginning and its end.
-func Short[T any](l []T) string {
-	if len(l) > 24 {
-		return fmt.Sprint(len(l), l[:12], "..", l[len(l)-12:])
-	}
-	return fmt.Sprint(l)
 }
 
 // Numbers answers the numbers below count.

@@ -1,6 +1,7 @@
 package sample_test
 
 import (
+	"math"
 	"slices"
 	"testing"
 
@@ -20,11 +21,17 @@ func TestCode(t *testing.T) {
 	if got := sample.Code(""); len(got) != 0 {
 		t.Errorf("Code of nothing answers %v", got)
 	}
-	for _, text := range []string{"zero", "jump a", "dup,yield"} {
+	for text, want := range map[string]string{
+		"zero":               `line 1 of "zero": 100`,
+		"dup,yield":          `line 1 of "dup,yield": 100`,
+		"dup, push 01, drop": `line 2 of "dup, push 01, drop": 42`,
+		"jump a":             `instruction 0 of "jump a": 101`,
+		"dup, zero b, yield": `instruction 1 of "dup, zero b, yield": 101`,
+	} {
 		func() {
 			defer func() {
-				if recover() == nil {
-					t.Errorf("Code(%q) answers something", text)
+				if got := recover(); got != want {
+					t.Errorf("Code(%q) tells %v, want %s", text, got, want)
 				}
 			}()
 			sample.Code(text)
@@ -69,6 +76,21 @@ func TestAll(t *testing.T) {
 
 func TestShort(t *testing.T) {
 	if got := sample.Short([]int{1, 2}); got != "[1 2]" {
+		t.Errorf("Short answers %s", got)
+	}
+	if got := sample.Short([]int{-1, math.MinInt, math.MaxInt}); got != "[-1 -9223372036854775808 9223372036854775807]" {
+		t.Errorf("Short answers %s", got)
+	}
+	if got := sample.Short([]uint32{0, 258, math.MaxUint32}); got != "[0 258 4294967295]" {
+		t.Errorf("Short answers %s", got)
+	}
+	if got := sample.Short([]bool{true, false}) + sample.Short([]bool{}) + sample.Short[int](nil); got != "[true false][][]" {
+		t.Errorf("Short answers %s", got)
+	}
+	if got := sample.Short([]api.Instr{{}, {Op: 1, A: 2, B: 3, C: 4}, {Op: 255, A: 254, B: 65535, C: math.MaxUint32}}); got != "[{0 0 0 0} {1 2 3 4} {255 254 65535 4294967295}]" {
+		t.Errorf("Short answers %s", got)
+	}
+	if got := sample.Short(make([]bool, 25)); got != "25 "+sample.Short(make([]bool, 12))+".."+sample.Short(make([]bool, 12)) {
 		t.Errorf("Short answers %s", got)
 	}
 	if got := sample.Short(sample.Numbers(24)); got != "[0 1 2 3 4 5 6 7 8 9 10 11 12 13 14 15 16 17 18 19 20 21 22 23]" {
